@@ -82,6 +82,12 @@ func (m meanings) ofOne(sign byte, without []bool) []bool {
 }
 
 func (m meanings) ofPair(text string) []bool {
+	first, sign, second := takenApart(text)
+	return m.joined(sign, m.of(first), m.of(second))
+}
+
+// takenApart returns what is in the brackets of a text before and behind the first sign that stands in no inner brackets, and the sign; nothing if there is none.
+func takenApart(text string) (first string, sign byte, second string) {
 	depth := 0
 	for i := range len(text) {
 		switch text[i] {
@@ -91,11 +97,11 @@ func (m meanings) ofPair(text string) []bool {
 			depth--
 		case '&', '|', '>':
 			if depth == 1 {
-				return m.joined(text[i], m.of(text[1:i]), m.of(text[i+1:len(text)-1]))
+				return text[1:i], text[i], text[i+1 : len(text)-1]
 			}
 		}
 	}
-	return nil
+	return "", 0, ""
 }
 
 func (m meanings) joined(sign byte, first []bool, second []bool) []bool {
@@ -724,8 +730,11 @@ func TestIssuesOfSentencesAreNewMemory(t *testing.T) {
 	}
 }
 
-func TestSentencesNeverPanic(t *testing.T) {
-	numbers := []int{math.MinInt, -1, 0, 1, 2, 3, 4, 15, 255, 256, 64, math.MaxInt}
+// wildNumbers are numbers of things and sets, right and wrong.
+var wildNumbers = []int{math.MinInt, -1, 0, 1, 2, 3, 4, 15, 255, 256, 64, math.MaxInt}
+
+// wildTexts are texts of any bytes, of any length.
+func wildTexts() []string {
 	texts := []string{"", "\x00", "\xff\xfe", "(", ")", "()", "!", "?", "(a", "(a&", "(a&b", "((", "))", "&", "a&b", "[a]b", "(a&b)", "(?a>?b)"}
 	for _, long := range []string{"!", "?", "(", "(a>", ")", "a", "\x80", "(a&b)"} {
 		texts = append(texts, strings.Repeat(long, 60), strings.Repeat(long, 1<<20))
@@ -742,14 +751,18 @@ func TestSentencesNeverPanic(t *testing.T) {
 		}
 		texts = append(texts, string(text), string(signs))
 	}
-	for _, text := range texts {
-		for _, things := range numbers {
+	return texts
+}
+
+func TestSentencesNeverPanic(t *testing.T) {
+	for _, text := range wildTexts() {
+		for _, things := range wildNumbers {
 			impl.IssueOf(things, text)
 			impl.PlainOk(things, text)
 			impl.TrueIn(things, text)
 			impl.EntailsOf(things, text, "a")
 			impl.EntailsOf(things, "(a>b)", text)
-			for _, set := range numbers {
+			for _, set := range wildNumbers {
 				impl.Supports(things, set, text)
 			}
 		}
